@@ -36,8 +36,7 @@ func bodyAsTold(list []impl.Record, version int) []byte {
 		if version == 2 {
 			body = append(body, groupsAsTold(len(x.Heads))...)
 			for _, h := range x.Heads {
-				text(true, h.Key)
-				text(true, h.Value)
+				body = append(body, numbers(len(h.Key), len(h.Value), h.Key, h.Value)...)
 			}
 		}
 	}
@@ -98,7 +97,7 @@ func oldForm(b impl.Batch) impl.Batch {
 func TestWriteBatchByteByByte(t *testing.T) {
 	list := []impl.Record{{Time: 7, Keyed: true, Key: "k", Value: "v"}, {Time: 6, Gone: true}, {Time: 70, Keyed: true, Heads: []impl.Head{{Key: "h", Value: ""}, {Key: "ij", Value: "w"}}}}
 	b := impl.Batch{Base: 5, Epoch: 2, Producer: 9, Turn: 1, Seq: 64, Flags: impl.FlagOpen, Records: list}
-	full := "M\x02\x0a\x04\x12\x02\x80\x01\x04\x30" + "\x06" + "\x0e\x02k\x02v\x00" + "\x01\x01\x01\x00" + "\x80\x01\x00\x00\x04\x02h\x00\x04ij\x02w"
+	full := "M\x02\x0a\x04\x12\x02\x80\x01\x04\x30" + "\x06" + "\x0e\x02k\x02v\x00" + "\x01\x01\x01\x00" + "\x80\x01\x00\x00\x04\x02\x00h\x04\x02ijw"
 	old := "M\x01\x0a\x04\x00\x14" + "\x04" + "\x0e\x02k\x02v" + "\x80\x01\x00\x01"
 	zeros := "\x02\x00\x00\xc8\x01" + strings.Repeat("z", 100)
 	squeezed := "\x05\x02\x00\x00\xc8\x01z" + "\xbf\x00\x00" + "\x9c\x00\x00"
@@ -122,6 +121,42 @@ func TestWriteBatchByteByByte(t *testing.T) {
 		}
 		if x, next, code := impl.ReadBatch(got, 0); code != impl.WireOk || next != len(got) || !sameBatch(x, c.b) {
 			t.Errorf("%s: read as %+v %d %d", c.name, x, next, code)
+		}
+	}
+}
+
+// Of one Head both numbers come first, then the bytes of its Key and those of its Value.
+func TestHeadsHaveTheirNumbersAhead(t *testing.T) {
+	cases := []struct {
+		name string
+		list []impl.Head
+		want []byte
+	}{
+		{"none", nil, []byte{0}},
+		{"one", []impl.Head{{Key: "k", Value: "vw"}}, []byte{2, 2, 4, 'k', 'v', 'w'}},
+		{"an empty Value", []impl.Head{{Key: "key"}}, []byte{2, 6, 0, 'k', 'e', 'y'}},
+		{"three", []impl.Head{{Key: "a", Value: "b"}, {Key: "cd"}, {Key: "e", Value: "fg"}}, []byte{6, 2, 2, 'a', 'b', 4, 0, 'c', 'd', 2, 4, 'e', 'f', 'g'}},
+		{"numbers of one byte", []impl.Head{{Key: long(63), Value: long(62)}}, []byte("\x02\x7e\x7c" + long(125))},
+		{"numbers of two bytes", []impl.Head{{Key: long(64), Value: long(100)}}, []byte("\x02\x80\x01\xc8\x01" + long(164))},
+		{"texts like numbers", []impl.Head{{Key: "\x02\x04", Value: "\x00"}}, []byte{2, 4, 2, 2, 4, 0}},
+	}
+	for _, c := range cases {
+		b := impl.Batch{Producer: -1, Records: []impl.Record{{Time: 5, Keyed: true, Key: "q", Heads: c.list}, {Time: 5, Value: "r", Heads: c.list}}}
+		body := slices.Concat([]byte{4, 10, 2, 'q', 0}, c.want, []byte{0, 1, 2, 'r'}, c.want)
+		for flags := range 2 {
+			b.Flags = flags
+			written := body
+			if flags == impl.FlagSqueezed {
+				written = squeezeAsTold(body)
+			}
+			data := wire(2, []int{0, 0, -1, 0, 0, flags}, written)
+			if got := impl.WriteBatch(b, 2); !bytes.Equal(got, data) {
+				t.Errorf("%s, Flags %d: %v, not %v", c.name, flags, got, data)
+			}
+			if x, next, code := impl.ReadBatch(data, 0); code != impl.WireOk || next != len(data) || !sameBatch(x, b) {
+				t.Errorf("%s, Flags %d: read as %+v %d %d", c.name, flags, x, next, code)
+			}
+			mustReadAll(t, append(bytes.Clone(data), data...), []impl.Batch{b, b}, impl.WireOk)
 		}
 	}
 }
@@ -381,16 +416,28 @@ func TestReadBatchOfAnotherForm(t *testing.T) {
 		"Key of the greatest number":   numbers(1, 5, math.MaxInt, "k", 1, "v", 0),
 		"Value longer than what is":    numbers(1, 5, 1, "k", 10, "v", 0),
 		"-1 Heads":                     numbers(1, 5, 1, "k", 1, "v", -1),
-		"four Heads":                   numbers(1, 5, 1, "k", 1, "v", 4, 1, "h", 0, 1, "h", 0, 1, "h", 0, 1, "h", 0),
+		"four Heads":                   numbers(1, 5, 1, "k", 1, "v", 4, 1, 0, "h", 1, 0, "h", 1, 0, "h", 1, 0, "h"),
 		"a Head fewer":                 numbers(1, 5, 1, "k", 1, "v", 1),
 		"an empty Key of a Head":       numbers(1, 5, 1, "k", 1, "v", 1, 0, 0),
+		"an empty Key beside a Value":  numbers(1, 5, 1, "k", 1, "v", 1, 0, 1, "w"),
 		"no Key of a Head":             numbers(1, 5, 1, "k", 1, "v", 1, -1, 0),
-		"no Value of a Head":           numbers(1, 5, 1, "k", 1, "v", 1, 1, "h", -1),
-		"a Head's Key of 101":          numbers(1, 5, 1, "k", 1, "v", 1, 101, long(101), 0),
-		"a Head's Value of 101":        numbers(1, 5, 1, "k", 1, "v", 1, 1, "h", 101, long(101)),
+		"no Value of a Head":           numbers(1, 5, 1, "k", 1, "v", 1, 1, -1, "h"),
+		"a Head's Key of -2":           numbers(1, 5, 1, "k", 1, "v", 1, -2, 1, "w"),
+		"a Head's Value of -2":         numbers(1, 5, 1, "k", 1, "v", 1, 1, -2, "h"),
+		"a Head's Key of 101":          numbers(1, 5, 1, "k", 1, "v", 1, 101, 0, long(101)),
+		"a Head's Value of 101":        numbers(1, 5, 1, "k", 1, "v", 1, 1, 101, "h", long(101)),
+		"a Head's Key alone told":      numbers(1, 5, 1, "k", 1, "v", 1, 1),
+		"a Head's numbers alone":       numbers(1, 5, 1, "k", 1, "v", 1, 1, 1),
+		"a Head's Value ends early":    numbers(1, 5, 1, "k", 1, "v", 1, 1, 2, "h", "w"),
+		"a Head's Value is not there":  numbers(1, 5, 1, "k", 1, "v", 1, 1, 1, "h"),
+		"a Head's Key too far":         numbers(1, 5, 1, "k", 1, "v", 1, math.MaxInt, 1, "h", "w"),
+		"a Head's Value too far":       numbers(1, 5, 1, "k", 1, "v", 1, 1, math.MaxInt, "h", "w"),
+		"a Head's needless group":      numbers(1, 5, 1, "k", 1, "v", 1, 1, "\x82\x00", "h", "w"),
+		"a Head's bytes between":       numbers(1, 5, 1, "k", 1, "v", 1, 1, "h", 1, "w"),
+		"the second Head's between":    numbers(1, 5, 1, "k", 1, "v", 2, 1, 1, "h", "w", 1, "h", 1, "w"),
 		"41 records":                   numbers(41, strings.Repeat("\x00\x01\x00\x00", 41)),
 		"very many records":            numbers(math.MaxInt, strings.Repeat("\x00\x01\x00\x00", 41)),
-		"very many Heads":              numbers(1, 5, 1, "k", 1, "v", math.MaxInt, 1, "h", 0),
+		"very many Heads":              numbers(1, 5, 1, "k", 1, "v", math.MaxInt, 1, 0, "h"),
 	}
 	for name, body := range bodies {
 		mustRefuse(t, name, wire(2, plain, body), 0, impl.WireForm)
@@ -527,8 +574,9 @@ func formAsTold(version int, head []int, body []byte) (impl.Batch, bool) {
 		}
 		if version == 2 {
 			for more := number(); ok && more > 0; more-- {
-				key := text(number())
-				x.Heads = append(x.Heads, impl.Head{Key: key, Value: text(number())})
+				keyed, valued := number(), number()
+				key := text(keyed)
+				x.Heads = append(x.Heads, impl.Head{Key: key, Value: text(valued)})
 			}
 		}
 		b.Records = append(b.Records, x)
@@ -546,7 +594,8 @@ func smallBatch(r *rand.Rand) impl.Batch {
 			x.Key, x.Value = x.Key[:min(len(x.Key), 3)], x.Value[:min(len(x.Value), 5)]
 		}
 		for j := range x.Heads {
-			x.Heads[j].Key, x.Heads[j].Value = "h", ""
+			h := &x.Heads[j]
+			h.Key, h.Value = h.Key[:min(len(h.Key), 2)], h.Value[:min(len(h.Value), 3)]
 		}
 	}
 	return b
