@@ -159,7 +159,7 @@ func goodValues() map[string]impl.Value {
 		"the least int": number(-1000000000000000), "the greatest int": number(1000000000000000), "an int of 0": number(0), "an int": number(-70000),
 		"an empty text": texted(""), "a text": texted("a b"), "the longest text": texted(strings.Repeat("~", 100)), "the least byte": texted(" "), "the greatest byte": texted("~"),
 		"a quote": texted(`"`), "a stroke": texted(`\`), "quotes and strokes": texted(`\"a\\"`), "a list's marks": texted(`[,]`), "a mark of what is missing": texted("-"), "the mark of Fixed": texted("a = b"),
-		"an empty list of flags": listOf(1, nil), "flags": listOf(1, items(0, 1, 0)), "smalls": listOf(2, items(-32768, 32767)), "ints": listOf(3, items(-1000000000000000, 0, 1000000000000000)),
+		"an empty list of flags": listOf(1, nil), "one flag": listOf(1, items(1)), "one text": listOf(4, words("a")), "flags": listOf(1, items(0, 1, 0)), "smalls": listOf(2, items(-32768, 32767)), "ints": listOf(3, items(-1000000000000000, 0, 1000000000000000)),
 		"texts": listOf(4, words("", "a", `,"`, `]\`, "-")), "an empty list of texts": listOf(4, []impl.Item{}),
 		"as many items as may be": listOf(2, items(make([]int, 30)...)), "as many texts": listOf(4, slices.Repeat(words(strings.Repeat(`"`, 100)), 30)),
 	}
