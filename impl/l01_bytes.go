@@ -35,7 +35,7 @@ func NameOk(s string) bool {
 		return false
 	}
 	for i := range len(s) {
-		if !isLetter(s[i]) && !isDigit(s[i]) && s[i] != '_' {
+		if !isNameByte(s[i]) {
 			return false
 		}
 	}
@@ -48,6 +48,10 @@ func isLetter(c byte) bool {
 
 func isDigit(c byte) bool {
 	return c >= '0' && c <= '9'
+}
+
+func isNameByte(c byte) bool {
+	return isLetter(c) || isDigit(c) || c == '_'
 }
 
 func PutInt(n int) []byte {
